@@ -1499,6 +1499,8 @@ func textSpan(text string) span {
 
 // meet tells whether two of the spans share a byte.
 func meet(spans []span) bool {
+	// What is sorted is a copy: the list may share its room with another one of the test.
+	spans = slices.Clone(spans)
 	slices.SortFunc(spans, func(a, b span) int {
 		if a.from < b.from {
 			return -1
