@@ -747,8 +747,10 @@ func TestProgramOkByDepth(t *testing.T) {
 }
 
 // changedPrograms hands over everyKind with one thing of it changed at a time.
-func changedPrograms(see func(what string, p impl.Program)) {
-	base := everyKind()
+func changedPrograms(see func(what string, p impl.Program)) { changesOf(everyKind(), see) }
+
+// changesOf hands over a program with one thing of it changed at a time.
+func changesOf(base impl.Program, see func(what string, p impl.Program)) {
 	change := func(what string, turn func(p *impl.Program)) {
 		p := cloneProgram(base)
 		turn(&p)
